@@ -445,6 +445,26 @@ func TestLaterPrefixes(t *testing.T) {
 	wants(t, "Of", s, e, "1,0,0,0,0,0,0,0: 7/20000 + 0 false", api.OK)
 }
 
+// TestLaterPrefixesThatAreLonger looks that an ID is what it was when it was
+// defined, although a later prefix, of which there may be several, would be the
+// longest one in it.
+func TestLaterPrefixesThatAreLonger(t *testing.T) {
+	const rows = "base a length\nbase b time\nprefix k 10 3\nunit ka 7 a\nunit kb 11 a\nunit x 1 kka\nunit y 1 kkb\nunit z 1/2 square-x-per-100-kka\n"
+	for _, later := range []string{"", "prefix kk 10 1\n", "prefix kk 10 1\nprefix kkk 2 5\n", "prefix kk 2 -1\nunit kka 3 b\nunit kkb 3 b\n"} {
+		x := loads(t, rows+later+"unit w 2 kx-per-y")
+		factorIs(t, x, "x", dims.V{1}, "7000")
+		factorIs(t, x, "y", dims.V{1}, "11000")
+		factorIs(t, x, "z", dims.V{1}, "35")
+		factorIs(t, x, "w", dims.V{}, "14000/11")
+		s, e := reduce.Of(x, parses(t, x, "kx-per-square-y").Parts[0])
+		wants(t, "Of", s, e, "-1,0,0,0,0,0,0,0: 7/121 + 0 false", api.OK)
+	}
+	// Ahead of the row it is the one.
+	x := loads(t, "base a length\nbase b time\nprefix k 10 3\nunit ka 7 a\nunit kb 11 a\nprefix kk 10 1\nunit x 1 kka\nunit y 1 kkb")
+	factorIs(t, x, "x", dims.V{1}, "10")
+	factorIs(t, x, "y", dims.V{0, 1}, "10")
+}
+
 // TestNamesInARing has units whose IDs, read with all names, would rest on one
 // another without end.
 func TestNamesInARing(t *testing.T) {
@@ -543,9 +563,11 @@ func (r tried) id() string {
 
 func (r tried) row() []string {
 	name, factor := r.of(words...), r.of("1", "2", "1/2", "3/7", "10/4", "1000000007")
-	switch r.Intn(8) {
+	switch r.Intn(9) {
 	case 0:
 		return []string{"base", name, "q" + name}
+	case 3:
+		return []string{"prefix", r.of("l", "kk", "kkk", "lk", "kl"), r.of("2", "10"), r.of("-2", "3")}
 	case 1:
 		return []string{"unit", name, factor, r.of("a", "a", r.of(words...)), r.of("1/3", "-5/2", "0")}
 	case 2:
@@ -556,10 +578,7 @@ func (r tried) row() []string {
 
 // table makes rows until there are enough that are right, and a model of them.
 func (r tried) table() (*table.Table, *model) {
-	l, m := []rows.Row{{W: []string{"base", "a", "length"}}}, newModel()
-	for _, w := range [][]string{{"prefix", "k", "10", "3"}, {"prefix", "l", "2", "-4"}, {"prefix", "kk", "10", "-2"}} {
-		l = append(l, rows.Row{W: w})
-	}
+	l, m := []rows.Row{{W: []string{"base", "a", "length"}}, {W: []string{"prefix", "k", "10", "3"}}}, newModel()
 	for _, row := range l {
 		m.add(row.W)
 	}
@@ -581,7 +600,7 @@ func (r tried) atom() atom.Atom {
 	}
 	a := atom.Atom{Name: r.of(words...), Power: power}
 	if r.Intn(3) == 0 {
-		a.Prefix = r.of("k", "l", "kk", "k", "l", "kk", "o")
+		a.Prefix = r.of("k", "l", "kk", "k", "l", "kk", "lk", "o")
 	}
 	return a
 }

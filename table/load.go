@@ -31,9 +31,6 @@ const noBase = -1
 type loader struct {
 	table *Table
 	bases int
-	// factors are those with respect to the bases, which a unit of later rows
-	// needs, but no call of the table.
-	factors map[string]rat.Q
 }
 
 // Load returns the table that the rows describe, or the line and the error of
@@ -55,7 +52,7 @@ func newLoader() *loader {
 		aliases:    map[string]alias{},
 		quantities: dims.NewNames(),
 	}
-	return &loader{table: t, factors: map[string]rat.Q{}}
+	return &loader{table: t}
 }
 
 // readRow reads one row, which is ignored if it is of another kind.
@@ -149,7 +146,9 @@ func (l *loader) define(entry Entry, p unit.Part) api.Errno {
 	if !ok {
 		return api.EDIM
 	}
-	factor := rat.Mul(entry.Factor, l.factorOf(p))
+	// A part that was parsed has a factor.
+	factor, _ := l.table.Factor(p)
+	factor = rat.Mul(entry.Factor, factor)
 	if isLong(factor) {
 		return api.ESIZE
 	}
@@ -160,8 +159,7 @@ func (l *loader) define(entry Entry, p unit.Part) api.Errno {
 // put adds a unit that is right.
 func (l *loader) put(entry Entry, v dims.V, factor rat.Q) {
 	l.table.names = append(l.table.names, entry.Name)
-	l.table.units[entry.Name] = measure{entry, v}
-	l.factors[entry.Name] = factor
+	l.table.units[entry.Name] = measure{entry, v, factor}
 }
 
 // addQuantity names the dimension of id.

@@ -3,6 +3,7 @@ package table
 import (
 	"iter"
 
+	"cubit/api"
 	"cubit/atom"
 	"cubit/nat"
 	"cubit/num"
@@ -17,6 +18,12 @@ const maxDigits = 100
 // topBit is the highest bit that the power of an atom may have, from 1 to
 // MaxPower.
 const topBit = 8
+
+// term is a fraction that is greater than 0, and its power, from 1 to MaxPower.
+type term struct {
+	over, under nat.N
+	power       int
+}
 
 // signedAtoms goes through the atoms of p: those of Num with 1, and then those
 // of Den with -1, which is the sign of their powers.
@@ -51,33 +58,51 @@ func (t *Table) isBase(id string) bool {
 	return ok && m.entry.Base != noBase
 }
 
-// factorOf returns the factor of p, which was parsed, with respect to the bases.
-func (l *loader) factorOf(p unit.Part) rat.Q {
-	product := rat.Int(1)
+// termsOf returns the terms whose product is the factor of u, or false if there
+// is none.
+func (t *Table) termsOf(u unit.Part) ([]term, bool) {
+	terms := []term{{over: nat.Of(1), under: u.Const, power: 1}}
+	for a, sign := range signedAtoms(u) {
+		factor, ok := t.plainFactor(a)
+		if !ok || a.Power < 1 || a.Power > api.MaxPower {
+			return nil, false
+		}
+		over, under := factor.P.N, factor.Q
+		if sign < 0 {
+			over, under = under, over
+		}
+		terms = append(terms, term{over, under, a.Power})
+	}
+	return terms, nat.Cmp(u.Const, nat.N{}) != 0
+}
+
+// plainFactor returns the factor of a without its Power, or false if its Name or
+// its Prefix does not exist.
+func (t *Table) plainFactor(a atom.Atom) (rat.Q, bool) {
+	m, isUnit := t.units[a.Name]
+	if a.Prefix == "" {
+		return m.factor, isUnit
+	}
+	value, isPrefix := t.values[a.Prefix]
+	return rat.Mul(value, m.factor), isUnit && isPrefix
+}
+
+// product returns the product of all terms, in new memory.
+func product(terms []term) rat.Q {
+	result := rat.Int(1)
 	// All powers grow together, bit by bit, so that what cancels does so before
 	// it becomes long.
 	for bit := topBit; bit > 0; bit /= 2 {
-		product, _ = rat.Pow(product, 2)
-		for a, sign := range signedAtoms(p) {
-			if a.Power&bit != 0 {
-				product = rat.Mul(product, l.turnedFactor(a, sign))
+		over, under := nat.Mul(result.P.N, result.P.N), nat.Mul(result.Q, result.Q)
+		for _, x := range terms {
+			if x.power&bit != 0 {
+				over, under = nat.Mul(over, x.over), nat.Mul(under, x.under)
 			}
 		}
+		// Nothing that is multiplied under the line is 0.
+		result, _ = rat.Of(num.Z{N: over}, under)
 	}
-	under, _ := rat.Of(num.Of(1), p.Const)
-	return rat.Mul(product, under)
-}
-
-// turnedFactor returns the factor of the prefix and the name of a, to the power
-// of sign.
-func (l *loader) turnedFactor(a atom.Atom, sign int) rat.Q {
-	factor := l.factors[a.Name]
-	if value, ok := l.table.values[a.Prefix]; ok {
-		factor = rat.Mul(value, factor)
-	}
-	// No factor is 0, so that each can be turned over.
-	turned, _ := rat.Pow(factor, sign)
-	return turned
+	return result
 }
 
 // isLong reports whether a positive factor has more digits than it may have,

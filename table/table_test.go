@@ -377,6 +377,91 @@ func TestVecOfOldNames(t *testing.T) {
 	}
 }
 
+func TestFactor(t *testing.T) {
+	x := loads(t, common+"alias far kilometer\nunit hard 3/7 square-kilofoot-per-100-milligram\nunit harder 7/3 per-hard\n")
+	for id, want := range map[string]string{
+		"meter": "1", "kilometer": "1000", "millimeter": "1/1000", "kibimeter": "1024", "foot": "381/1250", "inch": "127/5000", "square-inch": "16129/25000000",
+		"gram": "1/1000", "kilogram": "1", "per-gram": "1000", "milligram-per-gram": "1/1000", "pow15-kilometer": "1" + strings.Repeat("0", 45),
+		"cubic-millimeter": "1/1000000000", "per-cubic-millimeter": "1000000000", "newton": "1", "percent": "1/100", "per-100": "1/100", "per-7-inch-foot": "6250000/338709",
+		"foot-per-inch": "12", "cubic-foot-per-1728-cubic-inch": "1", "square-far": "1000000", "mph": "381/1250", "hard": "2787091200/7", "harder": "49/8361273600",
+		"hard-harder": "7/3", "hard-per-hard": "1",
+		// An offset is no part of a factor.
+		"celsius": "1", "square-fahrenheit": "25/81", "per-kilofahrenheit": "9/5000",
+	} {
+		if q, ok := x.Factor(parses(t, x, id).Parts[0]); !ok || rat.Text(q) != want || !rat.Good(q) {
+			t.Errorf("Factor(%s): %s, %v, want %s", id, rat.Text(q), ok, want)
+		}
+	}
+}
+
+// TestFactorOfAnyPart has parts that no parsing makes.
+func TestFactorOfAnyPart(t *testing.T) {
+	x := loads(t, common)
+	list := func(l ...atom.Atom) []atom.Atom { return l }
+	one := nat.Of(1)
+	for i, c := range []struct {
+		p    unit.Part
+		want string
+	}{
+		{unit.Part{Const: one}, "1"},
+		{unit.Part{Const: nat.N{L: []uint32{7, 0, 0}}}, "1/7"},
+		{unit.Part{Num: slices.Repeat(list(plain("percent", 1)), 100), Den: slices.Repeat(list(plain("percent", 1)), 101), Const: one}, "100"},
+		{unit.Part{Num: list(plain("foot", 15)), Den: list(plain("inch", 15)), Const: nat.Of(12)}, "1283918464548864"},
+		// A dimension that is not valid doesn't matter here.
+		{unit.Part{Num: slices.Repeat(list(plain("meter", 15)), 10), Const: one}, "1"},
+		{unit.Part{}, ""},
+		{unit.Part{Const: nat.N{L: []uint32{0, 0}}}, ""},
+		{unit.Part{Num: list(plain("meter", 1))}, ""},
+		{unit.Part{Num: list(plain("meter", 0)), Const: one}, ""},
+		{unit.Part{Num: list(plain("meter", -1)), Const: one}, ""},
+		{unit.Part{Den: list(plain("meter", 16)), Const: one}, ""},
+		{unit.Part{Num: list(plain("meter", math.MaxInt)), Const: one}, ""},
+		{unit.Part{Num: list(plain("meter", math.MinInt)), Const: one}, ""},
+		{unit.Part{Num: list(plain("metre", 1)), Const: one}, ""},
+		{unit.Part{Num: list(plain("", 1)), Const: one}, ""},
+		{unit.Part{Num: list(plain("kilometer", 1)), Const: one}, ""},
+		{unit.Part{Num: list(plain("meter", 1)), Den: list(plain("kilo", 1)), Const: one}, ""},
+		{unit.Part{Num: list(atom.Atom{Prefix: "giga", Name: "meter", Power: 1}), Const: one}, ""},
+		{unit.Part{Num: list(atom.Atom{Prefix: "kilo", Name: "metre", Power: 1}), Const: one}, ""},
+		{unit.Part{Num: list(atom.Atom{Prefix: "kilo", Power: 1}), Const: one}, ""},
+	} {
+		q, ok := x.Factor(c.p)
+		if ok != (c.want != "") || ok && (rat.Text(q) != c.want || !rat.Good(q)) || !ok && rat.Sign(q) != 0 {
+			t.Errorf("Factor of number %d: %s, %v, want %s", i, rat.Text(q), ok, c.want)
+		}
+	}
+}
+
+// TestLaterRows looks that a unit is what its row made it, although a later name,
+// alias or prefix would make its ID be read otherwise.
+func TestLaterRows(t *testing.T) {
+	const rows = "base a length\nbase b time\nprefix k 10 3\nunit ka 7 a\nunit kb 11 a\nunit x 1 kka\nunit y 1 square-kkb\nunit z 1/2 kb\n"
+	for _, later := range []string{
+		"", "prefix kk 10 1\n", "prefix kk 10 1\nprefix kkk 2 5\n", "base kka mass\n", "unit kka 3 b\nunit kkb 5 ka\n", "alias kka b\nalias kkb b\n", "prefix kk 2 -1\nunit kka 3 b\n",
+	} {
+		x := loads(t, rows+later+"unit w 3 x-per-a\n")
+		for _, c := range []struct {
+			name, factor string
+			vec          dims.V
+		}{{"x", "7000", dims.V{1}}, {"y", "121000000", dims.V{2}}, {"z", "11/2", dims.V{1}}, {"w", "21000", dims.V{}}} {
+			p := unit.Part{Num: []atom.Atom{plain(c.name, 1)}, Const: nat.Of(1)}
+			if v, ok := x.Vec(p); !ok || v != c.vec {
+				t.Errorf("%q: Vec(%s): %v, %v, want %v", later, c.name, v, ok, c.vec)
+			}
+			if q, ok := x.Factor(p); !ok || rat.Text(q) != c.factor {
+				t.Errorf("%q: Factor(%s): %s, %v, want %s", later, c.name, rat.Text(q), ok, c.factor)
+			}
+		}
+	}
+	// Ahead of the row it counts.
+	x := loads(t, "base a length\nbase b time\nprefix k 10 3\nunit ka 7 a\nprefix kk 10 1\nunit x 1 kka\nunit y 1 kkb\n")
+	for _, name := range []string{"x", "y"} {
+		if q, ok := x.Factor(unit.Part{Num: []atom.Atom{plain(name, 1)}, Const: nat.Of(1)}); !ok || rat.Text(q) != "10" {
+			t.Errorf("Factor(%s): %s, %v, want 10", name, rat.Text(q), ok)
+		}
+	}
+}
+
 // TestRowsThatAreIgnored has rows of other kinds, and rows without words.
 func TestRowsThatAreIgnored(t *testing.T) {
 	for _, row := range []string{
@@ -750,9 +835,12 @@ func compare(t *testing.T, x *table.Table, m *model) {
 		if y, ok := x.Entry(name); ok != isUnit || ok && entryText(y) != want || !ok && !isNoEntry(y) {
 			t.Errorf("Entry(%s): %s, %v, want %s", name, entryText(y), ok, want)
 		}
-		p := unit.Part{Num: []atom.Atom{plain(name, 1)}}
+		p := unit.Part{Num: []atom.Atom{plain(name, 1)}, Const: nat.Of(1)}
 		if v, ok := x.Vec(p); ok != isUnit || v != u.vec {
 			t.Errorf("Vec(%s): %v, %v, want %v", name, v, ok, u.vec)
+		}
+		if q, ok := x.Factor(p); ok != isUnit || ok && rat.Text(q) != u.whole.RatString() {
+			t.Errorf("Factor(%s): %s, %v, want %v", name, rat.Text(q), ok, u.whole)
 		}
 		if name, ok := x.Quantity(u.vec); ok != (m.quantities[u.vec] != "") || name != m.quantities[u.vec] {
 			t.Errorf("Quantity(%v): %s, want %s", u.vec, name, m.quantities[u.vec])
@@ -792,6 +880,9 @@ func compareParse(t *testing.T, x *table.Table, m *model, id string) {
 	v, ok := x.Vec(u.Parts[0])
 	if wantVec, wantOk := m.vec(u.Parts[0]); ok != wantOk || v != wantVec {
 		t.Errorf("Vec(%s): %v, %v, want %v, %v", id, v, ok, wantVec, wantOk)
+	}
+	if q, ok := x.Factor(u.Parts[0]); !ok || rat.Text(q) != m.factor(u.Parts[0]).RatString() {
+		t.Errorf("Factor(%s): %s, %v, want %s", id, rat.Text(q), ok, m.factor(u.Parts[0]).RatString())
 	}
 }
 
@@ -944,9 +1035,11 @@ func told(t *testing.T, x *table.Table) string {
 	text := fmt.Sprint(k)
 	for _, name := range k.Names {
 		y, _ := x.Entry(name)
-		v, ok := x.Vec(unit.Part{Num: []atom.Atom{plain(name, 1)}})
+		p := unit.Part{Num: []atom.Atom{plain(name, 1)}, Const: nat.Of(1)}
+		v, ok := x.Vec(p)
+		factor, _ := x.Factor(p)
 		quantity, named := x.Quantity(v)
-		text += fmt.Sprint(entryText(y), v, ok, quantity, named)
+		text += fmt.Sprint(entryText(y), v, ok, rat.Text(factor), quantity, named)
 	}
 	for _, name := range k.Prefixes {
 		q, ok := x.Prefix(name)
@@ -1004,9 +1097,20 @@ func TestResultsAreNewMemory(t *testing.T) {
 			}
 			scribbleRat(q)
 		}
-		for _, id := range []string{"metre", "mph", "square-kilometer-per-100-second", "metre-and-metre"} {
+		for _, id := range []string{"metre", "mph", "foot", "per-inch", "per-100", "square-kilometer-per-100-second", "metre-and-metre"} {
 			u := parses(t, x, id)
 			for _, p := range u.Parts {
+				factor, _ := x.Factor(p)
+				over, other := rat.Q{P: factor.P, Q: nat.Of(1)}, rat.Q{P: num.Of(1), Q: factor.Q}
+				under := rat.Text(other)
+				scribbleRat(over)
+				if rat.Text(other) != under {
+					t.Errorf("Factor(%s): terms share memory", id)
+				}
+				scribbleRat(other)
+				if unit.ShowPart(p) != unit.ShowPart(parses(t, x, id).Parts[0]) {
+					t.Errorf("Factor(%s) shares memory with its argument", id)
+				}
 				scribble(p.Num, plain("scribble", 99))
 				scribble(p.Den, plain("scribble", 99))
 				scribble(p.Const.L, 99)
@@ -1019,8 +1123,8 @@ func TestResultsAreNewMemory(t *testing.T) {
 	}
 }
 
-// TestPartsAreKept looks that Vec leaves its argument as it is, spare capacity
-// too.
+// TestPartsAreKept looks that Vec and Factor leave their argument as it is, spare
+// capacity too.
 func TestPartsAreKept(t *testing.T) {
 	x := loads(t, common)
 	fill := func() unit.Part {
@@ -1034,8 +1138,11 @@ func TestPartsAreKept(t *testing.T) {
 	if v, ok := x.Vec(p); !ok || v != (dims.V{0, 3, -7}) {
 		t.Errorf("Vec: %v, %v", v, ok)
 	}
+	if q, ok := x.Factor(p); !ok || rat.Text(q) != "1/1099511627776" {
+		t.Errorf("Factor: %s, %v", rat.Text(q), ok)
+	}
 	if !reflect.DeepEqual(p.Num[:2], was.Num[:2]) || !reflect.DeepEqual(p.Den[:3], was.Den[:3]) || !reflect.DeepEqual(p, was) {
-		t.Errorf("Vec has changed its argument: %v", p)
+		t.Errorf("Vec or Factor has changed its argument: %v", p)
 	}
 }
 
